@@ -1,0 +1,96 @@
+package site
+
+import (
+	"math"
+
+	"nacelle/api"
+)
+
+const (
+	drawFactor  = 950706376
+	drawModulus = 2147483647
+	fraction    = 16 // samples are multiples of 1/16
+)
+
+// IsName reports whether a string is a name.
+func IsName(s string) bool {
+	if s == "" || len(s) > api.MaxName {
+		return false
+	}
+	for i, c := range s {
+		if !isLetter(c) && (i == 0 || !isDigit(c) && c != '_') {
+			return false
+		}
+	}
+	return true
+}
+
+func isLetter(c rune) bool { return 'a' <= c && c <= 'z' || 'A' <= c && c <= 'Z' }
+
+func isDigit(c rune) bool { return '0' <= c && c <= '9' }
+
+// Draw returns the permutation of n elements by a key.
+func Draw(key, n int) ([]int, api.Errno) {
+	if e := first(checkRange(key, 1, drawModulus-1), checkRange(n, 0, api.MaxList)); e != api.OK {
+		return nil, e
+	}
+	out := make([]int, n)
+	for i := range n {
+		out[i] = i
+	}
+	x := key
+	for i := n - 1; i >= 1; i-- {
+		x = drawFactor * x % drawModulus
+		j := x % (i + 1)
+		out[i], out[j] = out[j], out[i]
+	}
+	return out, api.OK
+}
+
+// CheckSample returns the error of a sample, or OK.
+func CheckSample(x float32) api.Errno {
+	wide := float64(x)
+	switch {
+	case math.IsNaN(wide) || math.IsInf(wide, 0):
+		return api.ErrForm
+	case wide < -api.MaxSample || wide > api.MaxSample || fraction*wide != math.Trunc(fraction*wide):
+		return api.ErrRange
+	}
+	return api.OK
+}
+
+// plain returns a sample with 0 in place of -0, so that results show one zero only.
+func plain(x float32) float32 {
+	if x == 0 {
+		return 0
+	}
+	return x
+}
+
+// first returns the first error that is not OK, or OK.
+func first(errors ...api.Errno) api.Errno {
+	for _, e := range errors {
+		if e != api.OK {
+			return e
+		}
+	}
+	return api.OK
+}
+
+// checkRange returns ErrRange if a number is not from least to most.
+func checkRange(n, least, most int) api.Errno {
+	if n < least || n > most {
+		return api.ErrRange
+	}
+	return api.OK
+}
+
+// changed returns a new list with each element changed.
+func changed[T any](l []T, change func(T) T) []T {
+	out := make([]T, len(l))
+	copy(out, l)
+	for i := range out {
+		out[i] = change(out[i])
+	}
+	return out
+}

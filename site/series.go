@@ -1,0 +1,132 @@
+package site
+
+import (
+	"slices"
+
+	"nacelle/api"
+)
+
+// Series is a sample for each quarter of an hour, and the spans without a record.
+type Series struct {
+	Name    string
+	Start   int
+	Samples []float32
+	Gaps    []api.Span
+}
+
+// Statistics is how many quarters were recorded, the sum of their samples in sixteenths, the least and the greatest sample.
+type Statistics struct {
+	Count int
+	Sum   int
+	Least float32
+	Most  float32
+}
+
+// CheckSeries returns the first error of a series, or OK.
+func CheckSeries(s Series) api.Errno {
+	if !IsName(s.Name) {
+		return api.ErrName
+	}
+	if e := checkRange(s.Start, 0, api.MaxNumber); e != api.OK {
+		return e
+	}
+	if len(s.Samples) > api.MaxTime {
+		return api.ErrMany
+	}
+	for _, x := range s.Samples {
+		if e := CheckSample(x); e != api.OK {
+			return e
+		}
+	}
+	return checkGaps(s.Gaps, s.Samples)
+}
+
+// checkGaps returns the first error of the gaps of samples, or OK.
+func checkGaps(gaps []api.Span, samples []float32) api.Errno {
+	if e := CheckSpans(gaps); e != api.OK {
+		return e
+	}
+	for _, g := range gaps {
+		if g.To > len(samples) {
+			return api.ErrSpan
+		}
+	}
+	for q := range quartersOf(gaps) {
+		if samples[q] != 0 {
+			return api.ErrGap
+		}
+	}
+	return api.OK
+}
+
+// recorded returns the spans of the indices of a series that are not in its gaps.
+func recorded(s Series) []api.Span {
+	return lacking([]api.Span{{From: 0, To: len(s.Samples)}}, s.Gaps)
+}
+
+// Summary returns the statistics of a series.
+func Summary(s Series) (Statistics, api.Errno) {
+	if e := CheckSeries(s); e != api.OK {
+		return Statistics{}, e
+	}
+	var out Statistics
+	for q := range quartersOf(recorded(s)) {
+		x := plain(s.Samples[q])
+		if out.Count == 0 {
+			out.Least, out.Most = x, x
+		}
+		out.Count++
+		out.Sum += int(fraction * x)
+		out.Least = min(out.Least, x)
+		out.Most = max(out.Most, x)
+	}
+	if out.Count == 0 {
+		return Statistics{}, api.ErrEmpty
+	}
+	return out, api.OK
+}
+
+// Spells returns the spans in which a series stays at or below a level.
+func Spells(s Series, level float32, least int) ([]api.Span, api.Errno) {
+	if e := first(CheckSeries(s), CheckSample(level), checkRange(least, 1, api.MaxTime)); e != api.OK {
+		return nil, e
+	}
+	var spells []api.Span
+	for q := range quartersOf(recorded(s)) {
+		if s.Samples[q] <= level {
+			spells = extended(spells, q)
+		}
+	}
+	return bounded(slices.DeleteFunc(spells, func(x api.Span) bool { return x.To-x.From < least }))
+}
+
+// extended returns a list of spans with a quarter behind it: in its last span, if that ends there.
+func extended(l []api.Span, q int) []api.Span {
+	if last := len(l) - 1; last >= 0 && l[last].To == q {
+		l[last].To++
+		return l
+	}
+	return append(l, api.Span{From: q, To: q + 1})
+}
+
+// Append returns a series with the one that follows it.
+func Append(a, b Series) (Series, api.Errno) {
+	if e := first(CheckSeries(a), CheckSeries(b)); e != api.OK {
+		return Series{}, e
+	}
+	if a.Name != b.Name {
+		return Series{}, api.ErrConflict
+	}
+	end := len(a.Samples)
+	if b.Start != a.Start+end {
+		return Series{}, api.ErrOrder
+	}
+	samples := changed(slices.Concat(a.Samples, b.Samples), plain)
+	gaps := united(a.Gaps, changed(b.Gaps, func(g api.Span) api.Span {
+		return api.Span{From: g.From + end, To: g.To + end}
+	}))
+	if len(samples) > api.MaxTime || len(gaps) > api.MaxSpans {
+		return Series{}, api.ErrMany
+	}
+	return Series{Name: a.Name, Start: a.Start, Samples: samples, Gaps: gaps}, api.OK
+}
