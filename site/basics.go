@@ -4,6 +4,7 @@ import (
 	"math"
 
 	"nacelle/api"
+	"nacelle/check"
 )
 
 const (
@@ -31,7 +32,7 @@ func isDigit(c rune) bool { return '0' <= c && c <= '9' }
 
 // Draw returns the permutation of n elements by a key.
 func Draw(key, n int) ([]int, api.Errno) {
-	if e := first(checkRange(key, 1, drawModulus-1), checkRange(n, 0, api.MaxList)); e != api.OK {
+	if e := check.First(check.Range(key, 1, drawModulus-1), check.Range(n, 0, api.MaxList)); e != api.OK {
 		return nil, e
 	}
 	out := make([]int, n)
@@ -65,32 +66,4 @@ func plain(x float32) float32 {
 		return 0
 	}
 	return x
-}
-
-// first returns the first error that is not OK, or OK.
-func first(errors ...api.Errno) api.Errno {
-	for _, e := range errors {
-		if e != api.OK {
-			return e
-		}
-	}
-	return api.OK
-}
-
-// checkRange returns ErrRange if a number is not from least to most.
-func checkRange(n, least, most int) api.Errno {
-	if n < least || n > most {
-		return api.ErrRange
-	}
-	return api.OK
-}
-
-// changed returns a new list with each element changed.
-func changed[T any](l []T, change func(T) T) []T {
-	out := make([]T, len(l))
-	copy(out, l)
-	for i := range out {
-		out[i] = change(out[i])
-	}
-	return out
 }

@@ -2,6 +2,7 @@ package site
 
 import (
 	"nacelle/api"
+	"nacelle/check"
 )
 
 // Rose is how many quarters of an hour the wind blew from each sector, with each speed.
@@ -11,7 +12,7 @@ type Rose [api.Sectors][api.MaxSpeed + 1]int
 func CheckRose(r Rose) api.Errno {
 	for _, numbers := range r {
 		for _, n := range numbers {
-			if e := checkRange(n, 0, api.MaxTime); e != api.OK {
+			if e := check.Range(n, 0, api.MaxTime); e != api.OK {
 				return e
 			}
 		}
@@ -21,7 +22,7 @@ func CheckRose(r Rose) api.Errno {
 
 // TurnRose returns a rose that is turned by quarter turns.
 func TurnRose(r Rose, quarters int) (Rose, api.Errno) {
-	if e := first(CheckRose(r), checkTurns(quarters)); e != api.OK {
+	if e := check.First(CheckRose(r), checkTurns(quarters)); e != api.OK {
 		return Rose{}, e
 	}
 	var out Rose
@@ -50,7 +51,7 @@ func Quarters(r Rose) (int, api.Errno) {
 
 // Blown returns the rose of a series of speeds and one of sectors.
 func Blown(speeds, sectors Series) (Rose, api.Errno) {
-	if e := first(CheckSeries(speeds), CheckSeries(sectors)); e != api.OK {
+	if e := check.First(CheckSeries(speeds), CheckSeries(sectors)); e != api.OK {
 		return Rose{}, e
 	}
 	if speeds.Start != sectors.Start || len(speeds.Samples) != len(sectors.Samples) {

@@ -4,6 +4,8 @@ import (
 	"slices"
 
 	"nacelle/api"
+	"nacelle/check"
+	"nacelle/list"
 )
 
 // Series is a sample for each quarter of an hour, and the spans without a record.
@@ -27,7 +29,7 @@ func CheckSeries(s Series) api.Errno {
 	if !IsName(s.Name) {
 		return api.ErrName
 	}
-	if e := checkRange(s.Start, 0, api.MaxNumber); e != api.OK {
+	if e := check.Range(s.Start, 0, api.MaxNumber); e != api.OK {
 		return e
 	}
 	if len(s.Samples) > api.MaxTime {
@@ -88,7 +90,7 @@ func Summary(s Series) (Statistics, api.Errno) {
 
 // Spells returns the spans in which a series stays at or below a level.
 func Spells(s Series, level float32, least int) ([]api.Span, api.Errno) {
-	if e := first(CheckSeries(s), CheckSample(level), checkRange(least, 1, api.MaxTime)); e != api.OK {
+	if e := check.First(CheckSeries(s), CheckSample(level), check.Range(least, 1, api.MaxTime)); e != api.OK {
 		return nil, e
 	}
 	var spells []api.Span
@@ -111,7 +113,7 @@ func extended(l []api.Span, q int) []api.Span {
 
 // Append returns a series with the one that follows it.
 func Append(a, b Series) (Series, api.Errno) {
-	if e := first(CheckSeries(a), CheckSeries(b)); e != api.OK {
+	if e := check.First(CheckSeries(a), CheckSeries(b)); e != api.OK {
 		return Series{}, e
 	}
 	if a.Name != b.Name {
@@ -121,8 +123,8 @@ func Append(a, b Series) (Series, api.Errno) {
 	if b.Start != a.Start+end {
 		return Series{}, api.ErrOrder
 	}
-	samples := changed(slices.Concat(a.Samples, b.Samples), plain)
-	gaps := united(a.Gaps, changed(b.Gaps, func(g api.Span) api.Span {
+	samples := list.Changed(slices.Concat(a.Samples, b.Samples), plain)
+	gaps := united(a.Gaps, list.Changed(b.Gaps, func(g api.Span) api.Span {
 		return api.Span{From: g.From + end, To: g.To + end}
 	}))
 	if len(samples) > api.MaxTime || len(gaps) > api.MaxSpans {

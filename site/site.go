@@ -3,6 +3,7 @@ package site
 
 import (
 	"nacelle/api"
+	"nacelle/check"
 )
 
 // Turbine is a turbine at a place.
@@ -29,7 +30,7 @@ func CheckSite(s Site) api.Errno {
 	if !IsName(s.Name) {
 		return api.ErrName
 	}
-	if e := checkRange(s.Least, 1, api.MaxPlace); e != api.OK {
+	if e := check.Range(s.Least, 1, api.MaxPlace); e != api.OK {
 		return e
 	}
 	if len(s.Turbines) > api.MaxTurbines {
@@ -65,18 +66,13 @@ func checkTurbine(t Turbine, twice bool) api.Errno {
 	if !IsName(t.Name) {
 		return api.ErrName
 	}
-	if e := checkPlace(t.At); e != api.OK {
+	if e := check.Place(t.At); e != api.OK {
 		return e
 	}
 	if twice {
 		return api.ErrTwice
 	}
 	return api.OK
-}
-
-// checkPlace returns ErrRange if a coordinate is not in its range.
-func checkPlace(p api.Point) api.Errno {
-	return first(checkRange(p.X, -api.MaxPlace, api.MaxPlace), checkRange(p.Y, -api.MaxPlace, api.MaxPlace))
 }
 
 // squared returns the squared distance of two places.
@@ -106,7 +102,7 @@ func Spacing(s Site) (int, api.Errno) {
 
 // TurnSite returns a site that is turned by quarter turns.
 func TurnSite(s Site, quarters int) (Site, api.Errno) {
-	if e := first(CheckSite(s), checkTurns(quarters)); e != api.OK {
+	if e := check.First(CheckSite(s), checkTurns(quarters)); e != api.OK {
 		return Site{}, e
 	}
 	return moved(s, func(p api.Point) api.Point {
@@ -119,12 +115,12 @@ func TurnSite(s Site, quarters int) (Site, api.Errno) {
 
 // ShiftSite returns a site that is shifted.
 func ShiftSite(s Site, by api.Point) (Site, api.Errno) {
-	if e := first(CheckSite(s), checkPlace(by)); e != api.OK {
+	if e := check.First(CheckSite(s), check.Place(by)); e != api.OK {
 		return Site{}, e
 	}
 	out := moved(s, func(p api.Point) api.Point { return api.Point{X: p.X + by.X, Y: p.Y + by.Y} })
 	for _, t := range out.Turbines {
-		if e := checkPlace(t.At); e != api.OK {
+		if e := check.Place(t.At); e != api.OK {
 			return Site{}, e
 		}
 	}
@@ -133,19 +129,21 @@ func ShiftSite(s Site, by api.Point) (Site, api.Errno) {
 
 // moved returns a copy of a site whose turbines stand where a function says.
 func moved(s Site, to func(api.Point) api.Point) Site {
-	s.Turbines = changed(s.Turbines, func(t Turbine) Turbine {
-		t.At = to(t.At)
-		return t
-	})
+	turbines := make([]Turbine, len(s.Turbines))
+	copy(turbines, s.Turbines)
+	for i := range turbines {
+		turbines[i].At = to(turbines[i].At)
+	}
+	s.Turbines = turbines
 	return s
 }
 
 // checkTurns returns ErrRange if a number of quarter turns is not from 0 to 3.
-func checkTurns(quarters int) api.Errno { return checkRange(quarters, 0, 3) }
+func checkTurns(quarters int) api.Errno { return check.Range(quarters, 0, 3) }
 
 // Step returns the step down the wind of a sector.
 func Step(sector int) (api.Point, api.Errno) {
-	if e := checkRange(sector, 0, api.Sectors-1); e != api.OK {
+	if e := check.Range(sector, 0, api.Sectors-1); e != api.OK {
 		return api.Point{}, e
 	}
 	return steps[sector], api.OK

@@ -6,6 +6,7 @@ import (
 	"slices"
 
 	"nacelle/api"
+	"nacelle/check"
 )
 
 // CheckSpan returns the error of a span, or OK.
@@ -72,7 +73,7 @@ func Total(l []api.Span) (int, api.Errno) {
 
 // combined returns what an operation makes of two canonical lists, if it is not too long.
 func combined(a, b []api.Span, operation func(a, b []api.Span) []api.Span) ([]api.Span, api.Errno) {
-	if e := first(CheckSpans(a), CheckSpans(b)); e != api.OK {
+	if e := check.First(CheckSpans(a), CheckSpans(b)); e != api.OK {
 		return nil, e
 	}
 	return bounded(operation(a, b))

@@ -4,6 +4,7 @@ import (
 	"math"
 
 	"nacelle/api"
+	"nacelle/check"
 )
 
 const (
@@ -73,7 +74,7 @@ func Decode(s []byte) (Series, api.Errno) {
 	out.Gaps = r.gaps(gaps)
 	e := api.OK
 	out.Samples, e = r.samples(samples)
-	if e = first(e, CheckSeries(out)); e != api.OK {
+	if e = check.First(e, CheckSeries(out)); e != api.OK {
 		return Series{}, e
 	}
 	return out, api.OK

@@ -5,6 +5,7 @@ import (
 	"strings"
 
 	"nacelle/api"
+	"nacelle/text"
 )
 
 // Print returns the text of a site.
@@ -34,7 +35,7 @@ func Parse(s string) (Site, int, api.Errno) {
 	if len(s) > api.MaxLog {
 		return Site{}, 0, api.ErrLong
 	}
-	lines := linesOf(s)
+	lines := text.Lines(s)
 	var out Site
 	for i, line := range lines {
 		ok := false
@@ -58,15 +59,6 @@ func Parse(s string) (Site, int, api.Errno) {
 	return out, 0, api.OK
 }
 
-// linesOf splits a text behind each line feed.
-func linesOf(s string) []string {
-	lines := strings.SplitAfter(s, "\n")
-	if last := len(lines) - 1; lines[last] == "" {
-		return lines[:last]
-	}
-	return lines
-}
-
 // readSite reads the first line of a text.
 func readSite(line string) (Site, bool) {
 	name, values, ok := readEntry(line, "site", 1)
@@ -88,46 +80,22 @@ func readTurbine(line string) (Turbine, bool) {
 // readEntry reads the name and the integers of a line that has a kind and so many integers.
 func readEntry(line, kind string, count int) (string, []int, bool) {
 	body, ended := strings.CutSuffix(line, "\n")
-	w := words{left: strings.Split(body, " ")}
-	take := w.take
+	words := text.Split(body)
+	take := words.Take
 	if take() != kind || !ended {
 		return "", nil, false
 	}
 	name := take()
 	var values []int
 	for range count {
-		n, ok := readNumber(take())
+		n, ok := text.Integer(take())
 		if !ok {
 			return "", nil, false
 		}
 		values = append(values, n)
 	}
-	if name == "" || len(w.left) > 0 {
+	if name == "" || !words.Done() {
 		return "", nil, false
 	}
 	return name, values, true
-}
-
-// words are those words of a line that nobody has taken yet.
-type words struct {
-	left []string
-}
-
-// take takes the next word; where none is left it gives the empty string, which is no word of a line.
-func (w *words) take() string {
-	if len(w.left) == 0 {
-		return ""
-	}
-	word := w.left[0]
-	w.left = w.left[1:]
-	return word
-}
-
-// readNumber reads an integer of at most 9 digits. Only the way in which Print writes it is right, so it is written again.
-func readNumber(word string) (int, bool) {
-	n, err := strconv.Atoi(word)
-	if err != nil || checkRange(n, -api.MaxNumber, api.MaxNumber) != api.OK || strconv.Itoa(n) != word {
-		return 0, false
-	}
-	return n, true
 }
