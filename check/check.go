@@ -23,6 +23,21 @@ func Range(n, least, most int) api.Errno {
 	return api.OK
 }
 
+// Rising returns the first error of numbers from 0 to most, none of which is below the one before it, or OK.
+func Rising(l []int, most int) api.Errno {
+	before := 0
+	for _, n := range l {
+		if e := Range(n, 0, most); e != api.OK {
+			return e
+		}
+		if n < before {
+			return api.ErrOrder
+		}
+		before = n
+	}
+	return api.OK
+}
+
 // Place returns ErrRange if a coordinate is not in its range.
 func Place(p api.Point) api.Errno {
 	return First(Range(p.X, -api.MaxPlace, api.MaxPlace), Range(p.Y, -api.MaxPlace, api.MaxPlace))

@@ -32,6 +32,20 @@ func TestRange(t *testing.T) {
 	}
 }
 
+func TestRising(t *testing.T) {
+	for _, row := range []struct {
+		l    []int
+		want api.Errno
+	}{
+		{nil, api.OK}, {[]int{0}, api.OK}, {[]int{0, 0, 7, 7}, api.OK}, {[]int{-1}, api.ErrRange}, {[]int{8}, api.ErrRange}, {[]int{2, 1}, api.ErrOrder}, {[]int{2, -1}, api.ErrRange}, {[]int{2, 1, 8}, api.ErrOrder}, {[]int{2, 8, 1}, api.ErrRange},
+		{[]int{math.MinInt}, api.ErrRange}, {[]int{math.MaxInt}, api.ErrRange},
+	} {
+		if e := check.Rising(row.l, 7); e != row.want {
+			t.Errorf("Rising of %v: got %v, want %v", row.l, e, row.want)
+		}
+	}
+}
+
 func TestPlace(t *testing.T) {
 	for _, row := range []struct {
 		x, y int

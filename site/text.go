@@ -1,7 +1,6 @@
 package site
 
 import (
-	"strconv"
 	"strings"
 
 	"nacelle/api"
@@ -14,75 +13,41 @@ func Print(s Site) (string, api.Errno) {
 		return "", e
 	}
 	var out strings.Builder
-	out.WriteString(entry("site", s.Name, s.Least))
+	out.WriteString(text.Line("site "+s.Name, s.Least))
 	for _, t := range s.Turbines {
-		out.WriteString(entry("turbine", t.Name, t.At.X, t.At.Y))
+		out.WriteString(text.Line("turbine "+t.Name, t.At.X, t.At.Y))
 	}
 	return out.String(), api.OK
 }
 
-// entry returns a line with a kind, a name and integers.
-func entry(kind, name string, values ...int) string {
-	line := kind + " " + name
-	for _, n := range values {
-		line += " " + strconv.Itoa(n)
-	}
-	return line + "\n"
-}
-
 // Parse returns the site of a text, and the index of the first line that is wrong.
 func Parse(s string) (Site, int, api.Errno) {
-	if len(s) > api.MaxLog {
-		return Site{}, 0, api.ErrLong
-	}
-	lines := text.Lines(s)
-	var out Site
-	for i, line := range lines {
-		ok := false
-		if i == 0 {
-			out, ok = readSite(line)
-		} else {
-			var t Turbine
-			t, ok = readTurbine(line)
-			out.Turbines = append(out.Turbines, t)
-		}
-		if !ok {
-			return Site{}, i, api.ErrSyntax
-		}
-	}
-	if len(lines) == 0 {
+	if s == "" {
 		return Site{}, 0, api.ErrSyntax
 	}
-	if e := CheckSite(out); e != api.OK {
-		return Site{}, len(lines), e
-	}
-	return out, 0, api.OK
+	return text.Parse(s, api.MaxLog, readLine, CheckSite)
 }
 
-// readSite reads the first line of a text.
-func readSite(line string) (Site, bool) {
-	name, values, ok := readEntry(line, "site", 1)
-	if !ok {
-		return Site{}, false
+// readLine reads a line of a text into a site: the first one is that of the site, all others are those of turbines.
+func readLine(to *Site, index int, words *text.Words) bool {
+	if index == 0 {
+		name, values, ok := readEntry(words, "site", 1)
+		if ok {
+			to.Name, to.Least = name, values[0]
+		}
+		return ok
 	}
-	return Site{Name: name, Least: values[0]}, true
-}
-
-// readTurbine reads any other line of a text.
-func readTurbine(line string) (Turbine, bool) {
-	name, values, ok := readEntry(line, "turbine", 2)
-	if !ok {
-		return Turbine{}, false
+	name, values, ok := readEntry(words, "turbine", 2)
+	if ok {
+		to.Turbines = append(to.Turbines, Turbine{Name: name, At: api.Point{X: values[0], Y: values[1]}})
 	}
-	return Turbine{Name: name, At: api.Point{X: values[0], Y: values[1]}}, true
+	return ok
 }
 
 // readEntry reads the name and the integers of a line that has a kind and so many integers.
-func readEntry(line, kind string, count int) (string, []int, bool) {
-	body, ended := strings.CutSuffix(line, "\n")
-	words := text.Split(body)
+func readEntry(words *text.Words, kind string, count int) (string, []int, bool) {
 	take := words.Take
-	if take() != kind || !ended {
+	if take() != kind {
 		return "", nil, false
 	}
 	name := take()
@@ -94,8 +59,5 @@ func readEntry(line, kind string, count int) (string, []int, bool) {
 		}
 		values = append(values, n)
 	}
-	if name == "" || !words.Done() {
-		return "", nil, false
-	}
-	return name, values, true
+	return name, values, name != ""
 }

@@ -1,4 +1,4 @@
-// Package text reads the lines, the words and the integers of the texts of several layers.
+// Package text reads and writes the lines, the words and the integers of the texts of several layers.
 package text
 
 import (
@@ -15,6 +15,36 @@ func Lines(s string) []string {
 		return lines[:last]
 	}
 	return lines
+}
+
+// Parse returns the value of a text: a function reads each line into it, takes its words, and reports whether they are right.
+// Beside ErrLong, of a text of more than most bytes, the index is 0. Beside ErrSyntax it is that of the first line that is wrong, does not end, or has words left.
+// Beside an error of the value that was read it is the number of lines.
+func Parse[T any](s string, most int, read func(to *T, index int, words *Words) bool, check func(T) api.Errno) (T, int, api.Errno) {
+	var out, none T
+	if len(s) > most {
+		return none, 0, api.ErrLong
+	}
+	lines := Lines(s)
+	for i, line := range lines {
+		body, ended := strings.CutSuffix(line, "\n")
+		words := Split(body)
+		if !ended || !read(&out, i, words) || !words.Done() {
+			return none, i, api.ErrSyntax
+		}
+	}
+	if e := check(out); e != api.OK {
+		return none, len(lines), e
+	}
+	return out, 0, api.OK
+}
+
+// Line returns a line with a word and integers behind it.
+func Line(word string, values ...int) string {
+	for _, n := range values {
+		word += " " + strconv.Itoa(n)
+	}
+	return word + "\n"
 }
 
 // Words are those words of a line that nobody has taken yet.

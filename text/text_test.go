@@ -4,6 +4,7 @@ import (
 	"slices"
 	"testing"
 
+	"nacelle/api"
 	"nacelle/text"
 )
 
@@ -15,6 +16,49 @@ func TestLines(t *testing.T) {
 		if got := text.Lines(row.s); !slices.Equal(got, row.want) {
 			t.Errorf("Lines of %q: got %q, want %q", row.s, got, row.want)
 		}
+	}
+}
+
+func TestParse(t *testing.T) {
+	for _, row := range []struct {
+		s    string
+		i    int
+		e    api.Errno
+		want []string
+	}{
+		{"", 0, api.OK, nil}, {"a b\n", 0, api.OK, []string{"a", "b"}}, {"a b\nc d\n", 0, api.OK, []string{"a", "b", "c", "d"}}, {"a b", 0, api.ErrSyntax, nil}, {"a b\nc d", 1, api.ErrSyntax, nil}, {"a b\n\n", 1, api.ErrSyntax, nil},
+		{"a b c\n", 0, api.ErrSyntax, nil}, {"a b\nc d \n", 1, api.ErrSyntax, nil}, {"a x\nc d\n", 0, api.ErrSyntax, nil}, {"a b\nc x\nd\n", 1, api.ErrSyntax, nil},
+		{"a a\n", 1, api.ErrTwice, nil}, {"a a\nc d\n", 2, api.ErrTwice, nil}, {"a a\nc\n", 1, api.ErrSyntax, nil},
+		{"aaaaaa bb\n", 0, api.OK, []string{"aaaaaa", "bb"}}, {"aaaaaaa bb\n", 0, api.ErrLong, nil},
+	} {
+		read := func(to *[]string, index int, words *text.Words) bool {
+			if index != len(*to)/2 {
+				t.Errorf("Parse of %q: got the index %v, want %v", row.s, index, len(*to)/2)
+			}
+			first := words.Take()
+			second := words.Take()
+			*to = append(*to, first, second)
+			return first != "" && second != "" && second != "x"
+		}
+		check := func(l []string) api.Errno {
+			if len(slices.Compact(slices.Clone(l))) < len(l) {
+				return api.ErrTwice
+			}
+			return api.OK
+		}
+		got, i, e := text.Parse(row.s, 10, read, check)
+		if i != row.i || e != row.e || !slices.Equal(got, row.want) {
+			t.Errorf("Parse of %q: got %q, %v and %v, want %q, %v and %v", row.s, got, i, e, row.want, row.i, row.e)
+		}
+	}
+}
+
+func TestLine(t *testing.T) {
+	if got := text.Line("a"); got != "a\n" {
+		t.Errorf("Line: got %q", got)
+	}
+	if got := text.Line("a b", 0, -7, 12); got != "a b 0 -7 12\n" {
+		t.Errorf("Line with integers: got %q", got)
 	}
 }
 

@@ -26,13 +26,13 @@ func CheckCurve(c Curve) api.Errno {
 
 // checkPowers returns the first error of powers, or OK; there is a first one.
 func checkPowers(l []int) api.Errno {
-	if e := checkRising(l[:1], MaxPower); e != api.OK {
+	if e := check.Rising(l[:1], MaxPower); e != api.OK {
 		return e
 	}
 	if l[0] != 0 {
 		return api.ErrZero
 	}
-	return checkRising(l, MaxPower)
+	return check.Rising(l, MaxPower)
 }
 
 // Value returns the power of a curve at a speed.
