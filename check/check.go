@@ -2,6 +2,8 @@
 package check
 
 import (
+	"math"
+
 	"nacelle/api"
 )
 
@@ -23,19 +25,82 @@ func Range(n, least, most int) api.Errno {
 	return api.OK
 }
 
-// Rising returns the first error of numbers from 0 to most, none of which is below the one before it, or OK.
-func Rising(l []int, most int) api.Errno {
-	before := 0
-	for _, n := range l {
-		if e := Range(n, 0, most); e != api.OK {
-			return e
-		}
-		if n < before {
-			return api.ErrOrder
-		}
-		before = n
+// Finite returns ErrForm if a number is NaN or infinite.
+func Finite(x float64) api.Errno {
+	if math.IsNaN(x) || math.IsInf(x, 0) {
+		return api.ErrForm
 	}
 	return api.OK
+}
+
+// Sixteenths returns ErrRange if a number is not a multiple of 1/16 from least to most.
+func Sixteenths(x float64, least, most int) api.Errno {
+	if parts := 16 * x; x < float64(least) || x > float64(most) || parts != math.Trunc(parts) {
+		return api.ErrRange
+	}
+	return api.OK
+}
+
+// Many returns ErrMany if there are more elements than most.
+func Many(count, most int) api.Errno {
+	if count > most {
+		return api.ErrMany
+	}
+	return api.OK
+}
+
+// Filled returns ErrEmpty if there are no elements, ErrMany if there are more than most.
+func Filled(count, most int) api.Errno {
+	if count == 0 {
+		return api.ErrEmpty
+	}
+	return Many(count, most)
+}
+
+// Shape returns ErrShape if two lengths are not the same.
+func Shape(a, b int) api.Errno {
+	if a != b {
+		return api.ErrShape
+	}
+	return api.OK
+}
+
+// Each returns the first error that a function finds in an element of a list, or OK.
+func Each[T any](l []T, find func(T) api.Errno) api.Errno {
+	for _, x := range l {
+		if e := find(x); e != api.OK {
+			return e
+		}
+	}
+	return api.OK
+}
+
+// Row returns the first error that a function finds in an element of a list and the one before it, or OK. Start is before the first one.
+func Row[T any](l []T, start T, find func(before, x T) api.Errno) api.Errno {
+	before := start
+	return Each(l, func(x T) api.Errno {
+		e := find(before, x)
+		before = x
+		return e
+	})
+}
+
+// Ranges returns ErrRange if a number is not from least to most.
+func Ranges(l []int, least, most int) api.Errno {
+	return Each(l, func(n int) api.Errno { return Range(n, least, most) })
+}
+
+// Order returns ErrOrder if things are not in their order.
+func Order(ordered bool) api.Errno {
+	if !ordered {
+		return api.ErrOrder
+	}
+	return api.OK
+}
+
+// Rising returns the first error of numbers from 0 to most, none of which is below the one before it, or OK.
+func Rising(l []int, most int) api.Errno {
+	return Row(l, 0, func(before, n int) api.Errno { return First(Range(n, 0, most), Order(before <= n)) })
 }
 
 // Place returns ErrRange if a coordinate is not in its range.

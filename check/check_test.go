@@ -32,6 +32,69 @@ func TestRange(t *testing.T) {
 	}
 }
 
+func TestFinite(t *testing.T) {
+	for _, row := range []struct {
+		x    float64
+		want api.Errno
+	}{{0, api.OK}, {-0.1, api.OK}, {math.MaxFloat64, api.OK}, {math.NaN(), api.ErrForm}, {math.Inf(1), api.ErrForm}, {math.Inf(-1), api.ErrForm}} {
+		if e := check.Finite(row.x); e != row.want {
+			t.Errorf("Finite of %v: got %v, want %v", row.x, e, row.want)
+		}
+	}
+}
+
+func TestSixteenths(t *testing.T) {
+	for _, row := range []struct {
+		x    float64
+		want api.Errno
+	}{
+		{0, api.OK}, {math.Copysign(0, -1), api.OK}, {-2, api.OK}, {3, api.OK}, {0.0625, api.OK}, {-0.9375, api.OK}, {-2.0625, api.ErrRange}, {3.0625, api.ErrRange}, {0.03125, api.ErrRange}, {-0.1, api.ErrRange}, {math.MaxFloat64, api.ErrRange}, {-math.MaxFloat64, api.ErrRange}, {math.NaN(), api.ErrRange},
+	} {
+		if e := check.Sixteenths(row.x, -2, 3); e != row.want {
+			t.Errorf("Sixteenths of %v: got %v, want %v", row.x, e, row.want)
+		}
+	}
+}
+
+func TestSizes(t *testing.T) {
+	for _, row := range []struct {
+		count        int
+		many, filled api.Errno
+	}{{0, api.OK, api.ErrEmpty}, {1, api.OK, api.OK}, {7, api.OK, api.OK}, {8, api.ErrMany, api.ErrMany}} {
+		if e := check.Many(row.count, 7); e != row.many {
+			t.Errorf("Many of %v: got %v, want %v", row.count, e, row.many)
+		}
+		if e := check.Filled(row.count, 7); e != row.filled {
+			t.Errorf("Filled of %v: got %v, want %v", row.count, e, row.filled)
+		}
+	}
+	if same, longer, shorter := check.Shape(2, 2), check.Shape(3, 2), check.Shape(2, 3); same != api.OK || longer != api.ErrShape || shorter != api.ErrShape {
+		t.Errorf("Shape: got %v, %v and %v", same, longer, shorter)
+	}
+}
+
+func TestLists(t *testing.T) {
+	for _, row := range []struct {
+		l         []int
+		each, row api.Errno
+	}{
+		{nil, api.OK, api.OK}, {[]int{3, 5}, api.OK, api.OK}, {[]int{5, 3}, api.OK, api.ErrOrder}, {[]int{3, 8}, api.ErrRange, api.ErrRange}, {[]int{5, 3, 8}, api.ErrRange, api.ErrOrder}, {[]int{5, 8, 3}, api.ErrRange, api.ErrRange}, {[]int{2}, api.OK, api.ErrOrder}, {[]int{-1}, api.ErrRange, api.ErrRange}, {[]int{3, 3}, api.OK, api.ErrOrder},
+	} {
+		if e := check.Ranges(row.l, 0, 7); e != row.each {
+			t.Errorf("Ranges of %v: got %v, want %v", row.l, e, row.each)
+		}
+		if e := check.Each(row.l, func(n int) api.Errno { return check.Range(n, 0, 7) }); e != row.each {
+			t.Errorf("Each of %v: got %v, want %v", row.l, e, row.each)
+		}
+		e := check.Row(row.l, 2, func(before, n int) api.Errno {
+			return check.First(check.Range(n, 0, 7), check.Order(before < n))
+		})
+		if e != row.row {
+			t.Errorf("Row of %v: got %v, want %v", row.l, e, row.row)
+		}
+	}
+}
+
 func TestRising(t *testing.T) {
 	for _, row := range []struct {
 		l    []int

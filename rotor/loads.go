@@ -3,7 +3,6 @@ package rotor
 import (
 	"nacelle/api"
 	"nacelle/check"
-	"nacelle/list"
 )
 
 // Pair is A + B w, where w is a cubic root of unity.
@@ -51,10 +50,7 @@ func checkLoads(loads [3]int) api.Errno {
 
 // checkRecord returns the first error of a record, or OK.
 func checkRecord(l [][3]int) api.Errno {
-	if len(l) > MaxRecord {
-		return api.ErrMany
-	}
-	return check.First(list.Changed(l, checkLoads)...)
+	return check.First(check.Many(len(l), MaxRecord), check.Each(l, checkLoads))
 }
 
 // split returns the sum and the component of loads.

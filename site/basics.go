@@ -1,8 +1,6 @@
 package site
 
 import (
-	"math"
-
 	"nacelle/api"
 	"nacelle/check"
 )
@@ -51,13 +49,7 @@ func Draw(key, n int) ([]int, api.Errno) {
 // CheckSample returns the error of a sample, or OK.
 func CheckSample(x float32) api.Errno {
 	wide := float64(x)
-	switch {
-	case math.IsNaN(wide) || math.IsInf(wide, 0):
-		return api.ErrForm
-	case wide < -api.MaxSample || wide > api.MaxSample || fraction*wide != math.Trunc(fraction*wide):
-		return api.ErrRange
-	}
-	return api.OK
+	return check.First(check.Finite(wide), check.Sixteenths(wide, -api.MaxSample, api.MaxSample))
 }
 
 // plain returns a sample with 0 in place of -0, so that results show one zero only.

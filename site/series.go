@@ -32,15 +32,7 @@ func CheckSeries(s Series) api.Errno {
 	if e := check.Range(s.Start, 0, api.MaxNumber); e != api.OK {
 		return e
 	}
-	if len(s.Samples) > api.MaxTime {
-		return api.ErrMany
-	}
-	for _, x := range s.Samples {
-		if e := CheckSample(x); e != api.OK {
-			return e
-		}
-	}
-	return checkGaps(s.Gaps, s.Samples)
+	return check.First(check.Many(len(s.Samples), api.MaxTime), check.Each(s.Samples, CheckSample), checkGaps(s.Gaps, s.Samples))
 }
 
 // checkGaps returns the first error of the gaps of samples, or OK.

@@ -19,31 +19,15 @@ func CheckSpan(s api.Span) api.Errno {
 
 // CheckSpans returns the first error of a canonical list of spans, or OK.
 func CheckSpans(l []api.Span) api.Errno {
-	if len(l) > api.MaxSpans {
-		return api.ErrMany
-	}
-	end := -1
-	for _, s := range l {
-		if e := CheckSpan(s); e != api.OK {
-			return e
-		}
-		if s.From <= end {
-			return api.ErrOrder
-		}
-		end = s.To
-	}
-	return api.OK
+	return check.First(check.Many(len(l), api.MaxSpans), check.Row(l, api.Span{To: -1}, func(before, s api.Span) api.Errno {
+		return check.First(CheckSpan(s), check.Order(before.To < s.From))
+	}))
 }
 
 // Canon returns the canonical list of the quarters of any spans.
 func Canon(l []api.Span) ([]api.Span, api.Errno) {
-	if len(l) > api.MaxSpans {
-		return nil, api.ErrMany
-	}
-	for _, s := range l {
-		if e := CheckSpan(s); e != api.OK {
-			return nil, e
-		}
+	if e := check.First(check.Many(len(l), api.MaxSpans), check.Each(l, CheckSpan)); e != api.OK {
+		return nil, e
 	}
 	return united(l), api.OK
 }

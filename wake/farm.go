@@ -6,6 +6,7 @@ import (
 	"nacelle/api"
 	"nacelle/check"
 	"nacelle/list"
+	"nacelle/ratio"
 	"nacelle/site"
 )
 
@@ -166,16 +167,7 @@ func Loss(f Farm) (api.Ratio, api.Errno) {
 	if free == 0 {
 		return api.Ratio{}, api.ErrZero
 	}
-	common := divisor(free, free-energy)
-	return api.Ratio{Num: (free - energy) / common, Den: free / common}, api.OK
-}
-
-// divisor returns the greatest common divisor of two numbers.
-func divisor(a, b int) int {
-	for b != 0 {
-		a, b = b, a%b
-	}
-	return a
+	return ratio.Of(free-energy, free), api.OK
 }
 
 // Gain returns by how much a turbine more raises the energy.
