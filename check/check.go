@@ -17,53 +17,36 @@ func First(errors ...api.Errno) api.Errno {
 	return api.OK
 }
 
-// Range returns ErrRange if a number is not from least to most.
-func Range(n, least, most int) api.Errno {
-	if n < least || n > most {
-		return api.ErrRange
+// That returns an error if something does not hold, or OK.
+func That(holds bool, e api.Errno) api.Errno {
+	if holds {
+		return api.OK
 	}
-	return api.OK
+	return e
 }
 
+// Range returns ErrRange if a number is not from least to most.
+func Range(n, least, most int) api.Errno { return That(least <= n && n <= most, api.ErrRange) }
+
 // Finite returns ErrForm if a number is NaN or infinite.
-func Finite(x float64) api.Errno {
-	if math.IsNaN(x) || math.IsInf(x, 0) {
-		return api.ErrForm
-	}
-	return api.OK
-}
+func Finite(x float64) api.Errno { return That(!math.IsNaN(x) && !math.IsInf(x, 0), api.ErrForm) }
 
 // Sixteenths returns ErrRange if a number is not a multiple of 1/16 from least to most.
 func Sixteenths(x float64, least, most int) api.Errno {
-	if parts := 16 * x; x < float64(least) || x > float64(most) || parts != math.Trunc(parts) {
-		return api.ErrRange
-	}
-	return api.OK
+	parts := 16 * x
+	return That(float64(least) <= x && x <= float64(most) && parts == math.Trunc(parts), api.ErrRange)
 }
 
 // Many returns ErrMany if there are more elements than most.
-func Many(count, most int) api.Errno {
-	if count > most {
-		return api.ErrMany
-	}
-	return api.OK
-}
+func Many(count, most int) api.Errno { return That(count <= most, api.ErrMany) }
 
 // Filled returns ErrEmpty if there are no elements, ErrMany if there are more than most.
 func Filled(count, most int) api.Errno {
-	if count == 0 {
-		return api.ErrEmpty
-	}
-	return Many(count, most)
+	return First(That(count != 0, api.ErrEmpty), Many(count, most))
 }
 
 // Shape returns ErrShape if two lengths are not the same.
-func Shape(a, b int) api.Errno {
-	if a != b {
-		return api.ErrShape
-	}
-	return api.OK
-}
+func Shape(a, b int) api.Errno { return That(a == b, api.ErrShape) }
 
 // Each returns the first error that a function finds in an element of a list, or OK.
 func Each[T any](l []T, find func(T) api.Errno) api.Errno {
@@ -91,12 +74,7 @@ func Ranges(l []int, least, most int) api.Errno {
 }
 
 // Order returns ErrOrder if things are not in their order.
-func Order(ordered bool) api.Errno {
-	if !ordered {
-		return api.ErrOrder
-	}
-	return api.OK
-}
+func Order(ordered bool) api.Errno { return That(ordered, api.ErrOrder) }
 
 // Rising returns the first error of numbers from 0 to most, none of which is below the one before it, or OK.
 func Rising(l []int, most int) api.Errno {

@@ -21,6 +21,12 @@ func TestFirst(t *testing.T) {
 	}
 }
 
+func TestThat(t *testing.T) {
+	if holds, fails := check.That(true, api.ErrName), check.That(false, api.ErrName); holds != api.OK || fails != api.ErrName {
+		t.Errorf("That: got %v and %v", holds, fails)
+	}
+}
+
 func TestRange(t *testing.T) {
 	for _, row := range []struct {
 		n    int

@@ -51,13 +51,6 @@ func readEntry(words *text.Words, kind string, count int) (string, []int, bool) 
 		return "", nil, false
 	}
 	name := take()
-	var values []int
-	for range count {
-		n, ok := text.Integer(take())
-		if !ok {
-			return "", nil, false
-		}
-		values = append(values, n)
-	}
-	return name, values, name != ""
+	values, ok := words.Numbers(count, text.Integer)
+	return name, values, ok && name != ""
 }

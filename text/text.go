@@ -8,6 +8,9 @@ import (
 	"nacelle/api"
 )
 
+// maxDigits is how many digits an integer has at most, so that none is above MaxNumber.
+const maxDigits = 9
+
 // Lines splits a text behind each line feed; what stands behind the last one is a line, too, if it is not empty.
 func Lines(s string) []string {
 	lines := strings.SplitAfter(s, "\n")
@@ -68,20 +71,40 @@ func (w *Words) Take() string {
 // Done reports whether no word is left.
 func (w *Words) Done() bool { return len(w.left) == 0 }
 
-// Integer reads an integer of at most 9 digits. Only the way in which a text has it is right, so it is written again.
-func Integer(word string) (int, bool) {
-	n, err := strconv.Atoi(word)
-	if err != nil || n < -api.MaxNumber || n > api.MaxNumber || strconv.Itoa(n) != word {
-		return 0, false
+// Numbers takes so many words, and reads each one with a function.
+func (w *Words) Numbers(count int, read func(word string) (int, bool)) ([]int, bool) {
+	var out []int
+	for range count {
+		n, ok := read(w.Take())
+		if !ok {
+			return nil, false
+		}
+		out = append(out, n)
 	}
-	return n, true
+	return out, true
 }
 
-// Natural reads an integer of at most 9 digits without a sign.
-func Natural(word string) (int, bool) {
-	n, ok := Integer(word)
-	if n < 0 {
-		return 0, false
+// Integer reads an integer of at most 9 digits, with or without a sign; -0 is none.
+func Integer(word string) (int, bool) {
+	digits, negative := strings.CutPrefix(word, "-")
+	n, ok := Natural(digits)
+	if negative {
+		return -n, ok && n != 0
 	}
 	return n, ok
+}
+
+// Natural reads an integer of at most 9 digits without a sign. Leading zeros are wrong, as the texts have none.
+func Natural(word string) (int, bool) {
+	if word == "" || len(word) > maxDigits || len(word) > 1 && word[0] == '0' {
+		return 0, false
+	}
+	n := 0
+	for _, digit := range word {
+		if digit < '0' || digit > '9' {
+			return 0, false
+		}
+		n = 10*n + int(digit-'0')
+	}
+	return n, true
 }

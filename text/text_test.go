@@ -81,6 +81,24 @@ func TestWords(t *testing.T) {
 	}
 }
 
+func TestNumbers(t *testing.T) {
+	for _, row := range []struct {
+		line  string
+		count int
+		want  []int
+		ok    bool
+		left  string
+	}{
+		{"1 2 3", 2, []int{1, 2}, true, "3"}, {"1 2", 2, []int{1, 2}, true, ""}, {"1 2", 3, nil, false, ""}, {"x 2 3", 2, nil, false, "2"}, {"1 x 3", 2, nil, false, "3"}, {"1 -2 3", 2, nil, false, "3"}, {"1", 0, nil, true, "1"},
+	} {
+		words := text.Split(row.line)
+		got, ok := words.Numbers(row.count, text.Natural)
+		if left := words.Take(); ok != row.ok || !slices.Equal(got, row.want) || left != row.left {
+			t.Errorf("%v numbers of %q: got %v, %v and %q left, want %v, %v and %q", row.count, row.line, got, ok, left, row.want, row.ok, row.left)
+		}
+	}
+}
+
 func TestIntegers(t *testing.T) {
 	for _, row := range []struct {
 		word             string
