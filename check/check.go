@@ -37,6 +37,11 @@ func Sixteenths(x float64, least, most int) api.Errno {
 	return That(float64(least) <= x && x <= float64(most) && parts == math.Trunc(parts), api.ErrRange)
 }
 
+// Complex returns the first error of a complex number whose parts are multiples of 1/16, at most most and at least its opposite, or OK.
+func Complex(x complex128, most int) api.Errno {
+	return First(Finite(real(x)), Finite(imag(x)), Sixteenths(real(x), -most, most), Sixteenths(imag(x), -most, most))
+}
+
 // Many returns ErrMany if there are more elements than most.
 func Many(count, most int) api.Errno { return That(count <= most, api.ErrMany) }
 

@@ -62,6 +62,20 @@ func TestSixteenths(t *testing.T) {
 	}
 }
 
+func TestComplex(t *testing.T) {
+	for _, row := range []struct {
+		re, im float64
+		want   api.Errno
+	}{
+		{0, 0, api.OK}, {2, -2, api.OK}, {-2, 2, api.OK}, {0.0625, math.Copysign(0, -1), api.OK}, {2.0625, 0, api.ErrRange}, {-2.0625, 0, api.ErrRange}, {0, 2.0625, api.ErrRange}, {0, -2.0625, api.ErrRange}, {0.1, 0, api.ErrRange}, {0, 0.03125, api.ErrRange},
+		{math.NaN(), 3, api.ErrForm}, {3, math.NaN(), api.ErrForm}, {math.Inf(1), 0, api.ErrForm}, {0, math.Inf(-1), api.ErrForm}, {0.1, math.Inf(1), api.ErrForm}, {math.MaxFloat64, -math.MaxFloat64, api.ErrRange},
+	} {
+		if e := check.Complex(complex(row.re, row.im), 2); e != row.want {
+			t.Errorf("Complex of %v and %v: got %v, want %v", row.re, row.im, e, row.want)
+		}
+	}
+}
+
 func TestSizes(t *testing.T) {
 	for _, row := range []struct {
 		count        int

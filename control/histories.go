@@ -90,10 +90,5 @@ func Ramps(l []int, most int) (int, api.Errno) {
 	if e := check.First(check.Many(len(l), MaxSteps), check.Ranges(l, 0, api.MaxNumber), check.Range(most, 0, api.MaxNumber)); e != api.OK {
 		return 0, e
 	}
-	for i := 1; i < len(l); i++ {
-		if max(l[i]-l[i-1], l[i-1]-l[i]) > most {
-			return i, api.OK
-		}
-	}
-	return -1, api.OK
+	return list.Jump(l, most), api.OK
 }

@@ -9,3 +9,24 @@ func Changed[A, B any](l []A, change func(A) B) []B {
 	}
 	return out
 }
+
+// Kept returns a new list with those elements that a function keeps.
+func Kept[T any](l []T, keep func(T) bool) []T {
+	var out []T
+	for _, x := range l {
+		if keep(x) {
+			out = append(out, x)
+		}
+	}
+	return out
+}
+
+// Jump returns the first index at which a number differs from the one before by more than a number, or -1.
+func Jump(l []int, most int) int {
+	for i := 1; i < len(l); i++ {
+		if max(l[i]-l[i-1], l[i-1]-l[i]) > most {
+			return i
+		}
+	}
+	return -1
+}

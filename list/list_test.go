@@ -22,3 +22,30 @@ func TestChanged(t *testing.T) {
 		t.Errorf("Changed of nothing: got %v", got)
 	}
 }
+
+func TestKept(t *testing.T) {
+	numbers := []int{3, -1, 3, 0}
+	kept := list.Kept(numbers, func(n int) bool { return n != -1 })
+	if !slices.Equal(kept, []int{3, 3, 0}) {
+		t.Errorf("Kept: got %v", kept)
+	}
+	all := list.Kept(numbers, func(int) bool { return true })
+	all[0] = 7
+	if !slices.Equal(numbers, []int{3, -1, 3, 0}) {
+		t.Errorf("Kept shares memory with its argument")
+	}
+	if got := list.Kept(numbers, func(int) bool { return false }); len(got) != 0 {
+		t.Errorf("Kept of nothing: got %v", got)
+	}
+}
+
+func TestJump(t *testing.T) {
+	for _, row := range []struct {
+		l          []int
+		most, want int
+	}{{nil, 0, -1}, {[]int{9}, 0, -1}, {[]int{1, 3, 0, 9}, 2, 2}, {[]int{1, 3, 0, 9}, 1, 1}, {[]int{1, 3, 0, 9}, 3, 3}, {[]int{1, 3, 0, 9}, 9, -1}, {[]int{-5, 5}, 9, 1}, {[]int{5, -5}, 10, -1}, {[]int{2, 2}, 0, -1}} {
+		if got := list.Jump(row.l, row.most); got != row.want {
+			t.Errorf("Jump of %v by %v: got %v, want %v", row.l, row.most, got, row.want)
+		}
+	}
+}

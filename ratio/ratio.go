@@ -19,3 +19,12 @@ func greatest(a, b int) int {
 	}
 	return a
 }
+
+// Floor returns the greatest integer that is at most a ratio.
+func Floor(r api.Ratio) int {
+	quotient := r.Num / r.Den
+	if quotient*r.Den > r.Num { // rounded up, towards 0
+		quotient--
+	}
+	return quotient
+}

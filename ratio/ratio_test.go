@@ -28,3 +28,14 @@ func TestOf(t *testing.T) {
 		t.Errorf("Of great numbers: got %v", got)
 	}
 }
+
+func TestFloor(t *testing.T) {
+	for n := -30; n <= 30; n++ {
+		for d := 1; d <= 30; d++ {
+			got := ratio.Floor(ratio.Of(n, d))
+			if got*d > n || (got+1)*d <= n {
+				t.Errorf("Floor of %v and %v: got %v", n, d, got)
+			}
+		}
+	}
+}

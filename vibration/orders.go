@@ -6,6 +6,7 @@ import (
 	"nacelle/api"
 	"nacelle/check"
 	"nacelle/list"
+	"nacelle/phasor"
 	"nacelle/site"
 )
 
@@ -26,40 +27,11 @@ func CheckSamples(l []float32) api.Errno {
 	return check.First(check.Many(len(l), MaxSamples), check.Shape(len(l)%Size, 0), check.Each(l, site.CheckSample))
 }
 
-// checkPart returns ErrRange if a part of an order is not in its range.
-func checkPart(x float64) api.Errno { return check.Sixteenths(x, -maxPart, maxPart) }
-
 // checkOrder returns the error of an order, or OK.
-func checkOrder(x complex64) api.Errno {
-	re, im := parts(x)
-	return check.First(check.Finite(re), check.Finite(im), checkPart(re), checkPart(im))
-}
-
-// parts returns the real and the imaginary part of an order.
-func parts(x complex64) (float64, float64) { return float64(real(x)), float64(imag(x)) }
+func checkOrder(x complex64) api.Errno { return check.Complex(complex128(x), maxPart) }
 
 // squared returns the squared absolute value of an order.
-func squared(x complex64) float64 {
-	re, im := parts(x)
-	return re*re + im*im
-}
-
-// turn returns -i to a power.
-func turn(power int) complex64 {
-	turns := [Size]complex64{1, -1i, -1, 1i}
-	return turns[power%Size]
-}
-
-// sums returns, for k from 0 to 3, the sum over n of the value n after k n times some turns.
-func sums(values [Size]complex64, turns int) Spectrum {
-	var out Spectrum
-	for k := range out {
-		for n, x := range values {
-			out[k] += x * turn(k*n*turns)
-		}
-	}
-	return out
-}
+func squared(x complex64) float64 { return phasor.Squared(complex128(x)) }
 
 // orders returns the orders of a block.
 func (b Block) orders() Spectrum {
@@ -67,7 +39,7 @@ func (b Block) orders() Spectrum {
 	for n, x := range b {
 		values[n] = complex(x, 0)
 	}
-	return sums(values, 1)
+	return phasor.Sums(values, 1)
 }
 
 // mirrored returns the conjugates of orders in the opposite order. Those of a block are the same as its orders, as its samples are real.
@@ -102,7 +74,7 @@ func Back(s Spectrum) (Block, api.Errno) {
 		return Block{}, api.ErrConflict
 	}
 	var out Block
-	for n, x := range sums(s, backward) {
+	for n, x := range phasor.Sums(s, backward) {
 		out[n] = real(x) / Size
 	}
 	if e := check.Each(out[:], site.CheckSample); e != api.OK {
