@@ -10,6 +10,24 @@ func Changed[A, B any](l []A, change func(A) B) []B {
 	return out
 }
 
+// Paired returns a new list with what a function makes of each element and that of another list with the same index. The other list is at least as long.
+func Paired[A, B, C any](l []A, others []B, pair func(A, B) C) []C {
+	out := make([]C, len(l))
+	for i, x := range l {
+		out[i] = pair(x, others[i])
+	}
+	return out
+}
+
+// Sum returns the sum of numbers.
+func Sum(l []int) int {
+	sum := 0
+	for _, n := range l {
+		sum += n
+	}
+	return sum
+}
+
 // Kept returns a new list with those elements that a function keeps.
 func Kept[T any](l []T, keep func(T) bool) []T {
 	var out []T

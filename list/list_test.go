@@ -23,6 +23,35 @@ func TestChanged(t *testing.T) {
 	}
 }
 
+func TestPaired(t *testing.T) {
+	numbers, words := []int{3, -1, 3}, []string{"a", "b", "c"}
+	if got := list.Paired(numbers, words, func(n int, word string) string { return word + strconv.Itoa(n) }); !slices.Equal(got, []string{"a3", "b-1", "c3"}) {
+		t.Errorf("Paired: got %v", got)
+	}
+	first := list.Paired(numbers[:2], words, func(n int, _ string) int { return n })
+	if !slices.Equal(first, []int{3, -1}) {
+		t.Errorf("Paired with a longer list: got %v", first)
+	}
+	first[0] = 7
+	if numbers[0] != 3 {
+		t.Errorf("Paired shares memory with its argument")
+	}
+	if got := list.Paired(nil, words, func(n int, _ string) int { return n }); len(got) != 0 {
+		t.Errorf("Paired of nothing: got %v", got)
+	}
+}
+
+func TestSum(t *testing.T) {
+	for _, row := range []struct {
+		l    []int
+		want int
+	}{{nil, 0}, {[]int{5}, 5}, {[]int{3, -1, 3}, 5}} {
+		if got := list.Sum(row.l); got != row.want {
+			t.Errorf("Sum of %v: got %v, want %v", row.l, got, row.want)
+		}
+	}
+}
+
 func TestKept(t *testing.T) {
 	numbers := []int{3, -1, 3, 0}
 	kept := list.Kept(numbers, func(n int) bool { return n != -1 })
