@@ -73,6 +73,16 @@ func Row[T any](l []T, start T, find func(before, x T) api.Errno) api.Errno {
 	})
 }
 
+// Once returns a function that returns ErrTwice for a name that it was given before.
+func Once() func(name string) api.Errno {
+	given := map[string]bool{}
+	return func(name string) api.Errno {
+		twice := given[name]
+		given[name] = true
+		return That(!twice, api.ErrTwice)
+	}
+}
+
 // Ranges returns ErrRange if a number is not from least to most.
 func Ranges(l []int, least, most int) api.Errno {
 	return Each(l, func(n int) api.Errno { return Range(n, least, most) })

@@ -115,6 +115,21 @@ func TestLists(t *testing.T) {
 	}
 }
 
+func TestOnce(t *testing.T) {
+	once := check.Once()
+	for _, row := range []struct {
+		name string
+		want api.Errno
+	}{{"a", api.OK}, {"b", api.OK}, {"a", api.ErrTwice}, {"", api.OK}, {"", api.ErrTwice}, {"A", api.OK}, {"b", api.ErrTwice}} {
+		if e := once(row.name); e != row.want {
+			t.Errorf("Once of %q: got %v, want %v", row.name, e, row.want)
+		}
+	}
+	if e := check.Once()("a"); e != api.OK {
+		t.Errorf("another Once: got %v", e)
+	}
+}
+
 func TestRising(t *testing.T) {
 	for _, row := range []struct {
 		l    []int

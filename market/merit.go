@@ -27,11 +27,9 @@ func (b Bid) quantity() int { return b.Quantity }
 
 // CheckBids returns the first error of bids, or OK.
 func CheckBids(l []Bid) api.Errno {
-	named := map[string]bool{}
+	once := check.Once()
 	return check.First(check.Many(len(l), MaxBids), check.Each(l, func(b Bid) api.Errno {
-		e := check.First(b.check(), check.That(!named[b.Name], api.ErrTwice))
-		named[b.Name] = true
-		return e
+		return check.First(b.check(), once(b.Name))
 	}))
 }
 

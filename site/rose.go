@@ -3,6 +3,7 @@ package site
 import (
 	"nacelle/api"
 	"nacelle/check"
+	"nacelle/span"
 )
 
 // Rose is how many quarters of an hour the wind blew from each sector, with each speed.
@@ -58,7 +59,7 @@ func Blown(speeds, sectors Series) (Rose, api.Errno) {
 		return Rose{}, api.ErrShape
 	}
 	var out Rose
-	for q := range quartersOf(common(recorded(speeds), recorded(sectors))) {
+	for q := range span.Quarters(common(recorded(speeds), recorded(sectors))) {
 		speed, sector := speeds.Samples[q], sectors.Samples[q]
 		if !isSpeed(speed) || !isSector(sector) {
 			return Rose{}, api.ErrRange

@@ -1,11 +1,13 @@
 package site
 
 import (
+	"iter"
 	"slices"
 
 	"nacelle/api"
 	"nacelle/check"
 	"nacelle/list"
+	"nacelle/span"
 )
 
 // Series is a sample for each quarter of an hour, and the spans without a record.
@@ -45,7 +47,7 @@ func checkGaps(gaps []api.Span, samples []float32) api.Errno {
 			return api.ErrSpan
 		}
 	}
-	for q := range quartersOf(gaps) {
+	for q := range span.Quarters(gaps) {
 		if samples[q] != 0 {
 			return api.ErrGap
 		}
@@ -64,7 +66,7 @@ func Summary(s Series) (Statistics, api.Errno) {
 		return Statistics{}, e
 	}
 	var out Statistics
-	for q := range quartersOf(recorded(s)) {
+	for q := range span.Quarters(recorded(s)) {
 		x := plain(s.Samples[q])
 		if out.Count == 0 {
 			out.Least, out.Most = x, x
@@ -80,27 +82,23 @@ func Summary(s Series) (Statistics, api.Errno) {
 	return out, api.OK
 }
 
+// low visits the quarters that are recorded, and at or below a level.
+func low(s Series, level float32) iter.Seq[int] {
+	return func(yield func(int) bool) {
+		for q := range span.Quarters(recorded(s)) {
+			if s.Samples[q] <= level && !yield(q) {
+				return
+			}
+		}
+	}
+}
+
 // Spells returns the spans in which a series stays at or below a level.
 func Spells(s Series, level float32, least int) ([]api.Span, api.Errno) {
 	if e := check.First(CheckSeries(s), CheckSample(level), check.Range(least, 1, api.MaxTime)); e != api.OK {
 		return nil, e
 	}
-	var spells []api.Span
-	for q := range quartersOf(recorded(s)) {
-		if s.Samples[q] <= level {
-			spells = extended(spells, q)
-		}
-	}
-	return bounded(slices.DeleteFunc(spells, func(x api.Span) bool { return x.To-x.From < least }))
-}
-
-// extended returns a list of spans with a quarter behind it: in its last span, if that ends there.
-func extended(l []api.Span, q int) []api.Span {
-	if last := len(l) - 1; last >= 0 && l[last].To == q {
-		l[last].To++
-		return l
-	}
-	return append(l, api.Span{From: q, To: q + 1})
+	return bounded(span.Lasting(span.Of(low(s, level)), least))
 }
 
 // Append returns a series with the one that follows it.

@@ -2,11 +2,12 @@ package site
 
 import (
 	"cmp"
-	"iter"
 	"slices"
 
 	"nacelle/api"
 	"nacelle/check"
+	"nacelle/list"
+	"nacelle/span"
 )
 
 // CheckSpan returns the error of a span, or OK.
@@ -48,11 +49,7 @@ func Total(l []api.Span) (int, api.Errno) {
 	if e := CheckSpans(l); e != api.OK {
 		return 0, e
 	}
-	sum := 0
-	for _, s := range l {
-		sum += s.To - s.From
-	}
-	return sum, api.OK
+	return list.Sum(list.Changed(l, span.Length)), api.OK
 }
 
 // combined returns what an operation makes of two canonical lists, if it is not too long.
@@ -120,17 +117,4 @@ func rest(l []api.Span) []api.Span {
 		out = append(out, api.Span{From: from, To: api.MaxTime})
 	}
 	return out
-}
-
-// quartersOf visits the quarters of a list of spans, in order.
-func quartersOf(l []api.Span) iter.Seq[int] {
-	return func(yield func(int) bool) {
-		for _, s := range l {
-			for q := s.From; q < s.To; q++ {
-				if !yield(q) {
-					return
-				}
-			}
-		}
-	}
 }
