@@ -1,12 +1,21 @@
 // Package list has what several layers do with lists.
 package list
 
+import "slices"
+
 // Changed returns a new list with what a function makes of each element.
 func Changed[A, B any](l []A, change func(A) B) []B {
 	out := make([]B, len(l))
 	for i, x := range l {
 		out[i] = change(x)
 	}
+	return out
+}
+
+// Replaced returns a copy of a list in which the element with an index is what a function makes of it.
+func Replaced[T any](l []T, index int, change func(T) T) []T {
+	out := slices.Clone(l)
+	out[index] = change(out[index])
 	return out
 }
 

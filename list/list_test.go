@@ -23,6 +23,19 @@ func TestChanged(t *testing.T) {
 	}
 }
 
+func TestReplaced(t *testing.T) {
+	numbers := []int{3, -1, 5}
+	double := func(n int) int { return 2 * n }
+	for i, want := range [][]int{{6, -1, 5}, {3, -2, 5}, {3, -1, 10}} {
+		if got := list.Replaced(numbers, i, double); !slices.Equal(got, want) {
+			t.Errorf("Replaced at %v: got %v, want %v", i, got, want)
+		}
+	}
+	if !slices.Equal(numbers, []int{3, -1, 5}) {
+		t.Errorf("Replaced changes its argument: got %v", numbers)
+	}
+}
+
 func TestPaired(t *testing.T) {
 	numbers, words := []int{3, -1, 3}, []string{"a", "b", "c"}
 	if got := list.Paired(numbers, words, func(n int, word string) string { return word + strconv.Itoa(n) }); !slices.Equal(got, []string{"a3", "b-1", "c3"}) {

@@ -73,13 +73,23 @@ func (w *Words) Done() bool { return len(w.left) == 0 }
 
 // Numbers takes so many words, and reads each one with a function.
 func (w *Words) Numbers(count int, read func(word string) (int, bool)) ([]int, bool) {
-	var out []int
+	return taken(w, count, read)
+}
+
+// Filled takes so many words, each of which has at least one byte.
+func (w *Words) Filled(count int) ([]string, bool) {
+	return taken(w, count, func(word string) (string, bool) { return word, word != "" })
+}
+
+// taken takes so many words, and reads each one with a function, up to one that it does not read.
+func taken[T any](w *Words, count int, read func(word string) (T, bool)) ([]T, bool) {
+	var out []T
 	for range count {
-		n, ok := read(w.Take())
+		x, ok := read(w.Take())
 		if !ok {
 			return nil, false
 		}
-		out = append(out, n)
+		out = append(out, x)
 	}
 	return out, true
 }

@@ -99,6 +99,24 @@ func TestNumbers(t *testing.T) {
 	}
 }
 
+func TestFilled(t *testing.T) {
+	for _, row := range []struct {
+		line  string
+		count int
+		want  []string
+		ok    bool
+		left  string
+	}{
+		{"a b c", 2, []string{"a", "b"}, true, "c"}, {"a \xff", 2, []string{"a", "\xff"}, true, ""}, {"a b", 3, nil, false, ""}, {"", 1, nil, false, ""}, {" a b", 2, nil, false, "a"}, {"a  b", 2, nil, false, "b"}, {"a", 0, nil, true, "a"},
+	} {
+		words := text.Split(row.line)
+		got, ok := words.Filled(row.count)
+		if left := words.Take(); ok != row.ok || !slices.Equal(got, row.want) || left != row.left {
+			t.Errorf("%v words of %q: got %q, %v and %q left, want %q, %v and %q", row.count, row.line, got, ok, left, row.want, row.ok, row.left)
+		}
+	}
+}
+
 func TestIntegers(t *testing.T) {
 	for _, row := range []struct {
 		word             string
